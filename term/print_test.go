@@ -112,6 +112,32 @@ func TestParseLongAndWrong(t *testing.T) {
 	}
 }
 
+// ParseAnyLength says what Parse says but for lengths.
+func TestParseAnyLength(t *testing.T) {
+	long := strings.Repeat("a", 3*api.MaxText)
+	for _, c := range []struct {
+		text string
+		want api.Term
+		told api.Errno
+	}{
+		{"a", named("a"), api.OK},
+		{long, named(long), api.OK},
+		{"_" + long, anon(long), api.OK},
+		{`"` + long + `\""@en`, text(long+`"`, "en"), api.OK},
+		{"", api.Term{}, api.ErrSyntax},
+		{long + "A", api.Term{}, api.ErrSyntax},
+		{"_" + long + ".", api.Term{}, api.ErrSyntax},
+		{`"` + long, api.Term{}, api.ErrSyntax},
+		{`"` + long + `"@e`, api.Term{}, api.ErrSyntax},
+	} {
+		got, err := term.ParseAnyLength(c.text)
+		wantTold(t, c.text, err, c.told)
+		if got != c.want {
+			t.Errorf("ParseAnyLength(%q) = %#v, want %#v", c.text, got, c.want)
+		}
+	}
+}
+
 // eachOver calls with all texts of at most so many of these bytes.
 func eachOver(bytes string, most int, call func(s string)) {
 	var grow func(s string)

@@ -49,13 +49,22 @@ func Print(t api.Term) (string, error) {
 
 // Parse a term.
 func Parse(text string) (api.Term, error) {
-	t, ok := read(text)
-	if !ok || !spelled(t) {
-		return api.Term{}, api.ErrSyntax
+	t, err := ParseAnyLength(text)
+	if err != nil {
+		return api.Term{}, err
 	}
 	// Unlike in Check, a wrong byte weighs more here than a text that is too long.
 	if tooLong(t) {
 		return api.Term{}, api.ErrFull
+	}
+	return t, nil
+}
+
+// ParseAnyLength parses a term whose S may be too long: who reads several terms must know of what kind such a one is, to tell what else is wrong with them.
+func ParseAnyLength(text string) (api.Term, error) {
+	t, ok := read(text)
+	if !ok || !spelled(t) {
+		return api.Term{}, api.ErrSyntax
 	}
 	return t, nil
 }

@@ -102,8 +102,6 @@ func TestParseFull(t *testing.T) {
 		huge + " b c", "a " + huge + " c", `a b "` + huge + `"`,
 		`a b "` + strings.Repeat(" ", api.MaxText+1) + `"`,
 		`a b "` + strings.Repeat(`\" `, api.MaxText) + `"`,
-		// A term that is too long is told ahead of how they go together.
-		`"` + long + `" b c`, `"a" ` + long + " c", "a _b " + long, "a _" + long + " c", `a "` + long + ` b" c`, `"a" "b" "` + long + `"`,
 	} {
 		wantNoTriple(t, s, api.ErrFull)
 	}
@@ -130,6 +128,38 @@ func TestParseLongAndWrong(t *testing.T) {
 	}
 }
 
+// A text with a length and a place that are both wrong is a triple neither but for the one nor but for the other.
+func TestParseLongAndMisplaced(t *testing.T) {
+	long := strings.Repeat("a", api.MaxText+1)
+	for _, s := range []string{
+		`"` + long + `" b c`, `"` + long + `"@en b c`, `"` + long + ` b" c d`, `"a" ` + long + " c", `"a" b ` + long, `"a" b "` + long + `"@en`,
+		"a _" + long + " c", `a "` + long + `" c`, `a "` + long + ` b" c`, "a _b " + long, `a "b" _` + long, long + " _b c", "_" + long + ` "b" c`,
+		`"a" _` + long + " c", `"a" "b" "` + long + `"`, `"` + long + `" _` + long + " " + long,
+	} {
+		wantNoTriple(t, s, api.ErrSyntax)
+	}
+}
+
+// words are texts of terms of each kind, as long as may be and longer, and of none.
+func words() []string {
+	full := strings.Repeat("a", api.MaxText)
+	return []string{
+		"a", full, full + "a", "_1", "_" + full, "_" + full + "1",
+		`"a b"`, `"` + full + `"@en`, `"` + full + ` "`, `"` + full + ` "@en`,
+		"", "A", "_", `"a`, full + "A", "_" + full + "1.", `"` + full + ` "@e`,
+	}
+}
+
+func TestParseOfAllWords(t *testing.T) {
+	for _, s := range words() {
+		for _, p := range words() {
+			for _, o := range words() {
+				wantParsed(t, s+" "+p+" "+o)
+			}
+		}
+	}
+}
+
 // parsed says what a text is by all ways to cut it at two blanks: at most one of them makes three terms.
 func parsed(s string) (api.Triple, api.Errno) {
 	var found api.Triple
@@ -146,10 +176,15 @@ func parsed(s string) (api.Triple, api.Errno) {
 			if e[0] == api.ErrSyntax || e[1] == api.ErrSyntax || e[2] == api.ErrSyntax {
 				continue
 			}
+			long := e[0]+e[1]+e[2] != api.OK
+			// Of a term that is too long there is no Kind to ask: its first byte says which.
+			misplaced := s[0] == '"' || s[i+1] == '"' || s[i+1] == '_'
 			switch {
-			case e[0]+e[1]+e[2] != api.OK:
+			case long && misplaced:
+				told = api.ErrSyntax
+			case long:
 				told = api.ErrFull
-			case x.Kind == api.Text || y.Kind != api.Name:
+			case misplaced:
 				told = api.ErrShape
 			default:
 				found, told = said(x, y, z), api.OK
@@ -201,7 +236,7 @@ func TestParseSharesNothing(t *testing.T) {
 func FuzzParse(f *testing.F) {
 	long := strings.Repeat("a", api.MaxText+1)
 	for _, s := range []string{
-		"", "a b c", `_a b "c d"@en`, `"a" b c`, `a "b c" d`, "a _b c", long + " b c", `a b "` + long + `"`, `a b "\" "`, "a b c ", "\xff a a",
+		"", "a b c", `_a b "c d"@en`, `"a" b c`, `a "b c" d`, "a _b c", long + " b c", `a b "` + long + `"`, `"` + long + `" b c`, "a _b " + long, `a b "\" "`, "a b c ", "\xff a a",
 	} {
 		f.Add(s)
 	}
