@@ -164,7 +164,7 @@ func wantLayer(t *testing.T, b string, want api.Layer, told api.Errno) {
 // size is how many bytes the term has that begins with these, as far as they show it. It needs more of them where it is beyond their end.
 func size(b string) int {
 	lang := 0
-	if b[0] > 4 {
+	if b[0] == 7 {
 		lang = 2
 	}
 	if len(b) < 2+lang {
@@ -179,7 +179,7 @@ func cutTerms(b string, count int) (terms []api.Term, rest string, told api.Errn
 		if b == "" {
 			return nil, "", api.ErrShort
 		}
-		if !strings.ContainsRune("\x01\x02\x03\x05\x06\x07", rune(b[0])) {
+		if !strings.ContainsRune("\x01\x02\x03\x07", rune(b[0])) {
 			return nil, "", api.ErrSyntax
 		}
 		n := size(b)
@@ -187,8 +187,8 @@ func cutTerms(b string, count int) (terms []api.Term, rest string, told api.Errn
 			return nil, "", api.ErrShort
 		}
 		x := api.Term{Kind: int(b[0]), S: b[2:n]}
-		if b[0] > 4 {
-			x = api.Term{Kind: int(b[0]) - 4, S: b[4:n], Lang: b[1:3]}
+		if b[0] == 7 {
+			x = text(b[4:n], b[1:3])
 		}
 		if term.Check(x) != nil {
 			return nil, "", api.ErrSyntax

@@ -58,16 +58,17 @@ func (r *reader) number(size int) int {
 	return n
 }
 
-// kind reads a byte of a Kind, and tells how many bytes of a Lang follow. Where there is such a Kind nothing is told ahead of its other bytes, so that one may have no Lang is left to its whole term.
+// kind reads a byte of a Kind, and tells how many bytes of a Lang follow. A byte that is none's is a fault where it stands, ahead of what may be missing behind it.
 func (r *reader) kind() (kind, langBytes int) {
 	kind = r.number(1)
-	if kind > langMark {
-		kind, langBytes = kind-langMark, langSize
+	// Just a Text may have a Lang: no other Kind has a byte that is so much more.
+	if kind == api.Text+langMark {
+		return api.Text, langSize
 	}
 	if kind < api.Name || kind > api.Text {
 		r.end(api.ErrSyntax)
 	}
-	return kind, langBytes
+	return kind, 0
 }
 
 func (r *reader) term() api.Term {

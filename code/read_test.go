@@ -51,34 +51,37 @@ func TestReadCutOffAndMore(t *testing.T) {
 	}
 }
 
-// A byte that is of no Kind is told at once; one that is of a Kind, with a Lang that it may not have, not ahead of the other bytes.
+// A byte that is of no Kind is told where it stands, whatever is missing behind it; of one that is nothing is told ahead of its other bytes. Just of a Text it may be 4 more.
 func TestReadKind(t *testing.T) {
 	for kind := range 256 {
 		told := api.ErrSyntax
 		switch kind {
-		case 1, 2, 3, 5, 6, 7:
+		case 1, 2, 3, 7:
 			told = api.ErrShort
 		}
 		wantTerm(t, raw(kind), api.Term{}, told)
 		wantSet(t, raw(0, 1, kind), nil, told)
 		wantSet(t, raw(0, 1)+words("aaa")[:6]+raw(kind), nil, told)
 		wantLayer(t, raw(0, 0, 0, 2)+words("aaa")+raw(kind), api.Layer{}, told)
-		if kind < 1 || kind > 3 {
-			wantTerm(t, raw(kind, 1)+"a", api.Term{}, told)
+		if told == api.ErrShort {
+			continue
 		}
-		if kind < 1 || kind > 3 && kind != 7 {
-			wantTerm(t, raw(kind)+"en\x01a", api.Term{}, api.ErrSyntax)
+		for _, rest := range []string{"e", "en", "en\x02", "en\x02a", "en\x02ab", "\x00", "\x01", "\x01a", "\x03x:y", "\x03x:y\x00\x00"} {
+			wantTerm(t, raw(kind)+rest, api.Term{}, api.ErrSyntax)
+			for _, ahead := range []string{"", "\x01\x01a", "\x01\x01a\x01\x01p", words("aaa")} {
+				wantSet(t, "\x00\x02"+ahead+raw(kind)+rest, nil, api.ErrSyntax)
+				wantLayer(t, "\x00\x02"+ahead+raw(kind)+rest, api.Layer{}, api.ErrSyntax)
+				wantLayer(t, "\x00\x00\x00\x02"+ahead+raw(kind)+rest, api.Layer{}, api.ErrSyntax)
+			}
 		}
 	}
-	for _, kind := range []int{5, 6} {
-		b := raw(kind) + "en\x02ab"
-		for n := 1; n < len(b); n++ {
-			wantTerm(t, b[:n], api.Term{}, api.ErrShort)
-			wantSet(t, "\x00\x01"+b[:n], nil, api.ErrShort)
-		}
-		wantTerm(t, b, api.Term{}, api.ErrSyntax)
-		wantSet(t, "\x00\x01"+b, nil, api.ErrSyntax)
-	}
+}
+
+// The last term of a set has a byte of no Kind: read as one with a Lang it would be cut off.
+func TestReadKindWithinASet(t *testing.T) {
+	b := "\x00\x03" + words("bpb") + "\x01\x01c\x01\x01b\x01\x02k1" + "\x01\x01c\x01\x01p\x05\x03x:y\x00\x00"
+	wantSet(t, b, nil, api.ErrSyntax)
+	wantLayer(t, b, api.Layer{}, api.ErrSyntax)
 }
 
 // A term is asked when it is whole, and not ahead of that.
