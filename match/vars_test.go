@@ -115,3 +115,20 @@ func TestVarsFirstFault(t *testing.T) {
 		}
 	}
 }
+
+// IsVar says of each text what Vars says of a slot that has it, but that an empty one is none.
+func TestIsVar(t *testing.T) {
+	for _, name := range []string{"a", "z", "abcdefghij", "zzzzzzzzzz"} {
+		if !match.IsVar(name) {
+			t.Errorf("IsVar(%q) = false", name)
+		}
+	}
+	if match.IsVar("") {
+		t.Error("an empty text is told to be a variable")
+	}
+	for _, bad := range wrongVars() {
+		if match.IsVar(bad.s.Var) {
+			t.Errorf("IsVar(%q) = true", bad.s.Var)
+		}
+	}
+}

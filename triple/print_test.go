@@ -272,3 +272,35 @@ func FuzzPrint(f *testing.F) {
 		}
 	})
 }
+
+func TestCutWord(t *testing.T) {
+	for _, c := range []struct {
+		text, word, rest string
+		more             bool
+	}{
+		{"", "", "", false},
+		{"a", "a", "", false},
+		{" ", "", "", true},
+		{"a ", "a", "", true},
+		{" a", "", "a", true},
+		{"a b c", "a", "b c", true},
+		{"a  b", "a", " b", true},
+		{`"a b"`, `"a b"`, "", false},
+		{`"a b"@en c`, `"a b"@en`, "c", true},
+		{`"a b"c" d`, `"a b"c"`, "d", true},
+		{`"a \" b" c`, `"a \" b"`, "c", true},
+		{`"a \\" b" c`, `"a \\"`, `b" c`, true},
+		{`"a\ b" c`, `"a\ b"`, "c", true},
+		// Quotes that stand within a word, or do not end, cut nothing off.
+		{`a"b c"`, `a"b`, `c"`, true},
+		{`"a b`, `"a b`, "", false},
+		{`"a b\" c`, `"a b\" c`, "", false},
+		{`"a b\`, `"a b\`, "", false},
+		{"a\nb c", "a\nb", "c", true},
+	} {
+		word, rest, more := triple.CutWord(c.text)
+		if word != c.word || rest != c.rest || more != c.more {
+			t.Errorf("CutWord(%q) = %q, %q, %v, want %q, %q, %v", c.text, word, rest, more, c.word, c.rest, c.more)
+		}
+	}
+}

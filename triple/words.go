@@ -22,23 +22,23 @@ func printTerms(terms ...api.Term) (string, error) {
 
 // cut finds the texts of three terms. The third is all that is left: a blank too many in it is for the term's reading to tell.
 func cut(text string) ([3]string, bool) {
-	s, rest, ok := cutWord(text)
+	s, rest, ok := CutWord(text)
 	if !ok {
 		return [3]string{}, false
 	}
-	p, o, ok := cutWord(rest)
+	p, o, ok := CutWord(rest)
 	if !ok {
 		return [3]string{}, false
 	}
 	return [3]string{s, p, o}, true
 }
 
-// cutWord cuts a text at its first blank that is not between quotes.
-func cutWord(text string) (word, rest string, ok bool) {
+// CutWord cuts a text at its first blank that is not between quotes, which begin only where the text does. A text without such a blank is one word, and there are no more then. Questions are cut into words as triples are.
+func CutWord(text string) (word, rest string, more bool) {
 	from := quotesEnd(text)
 	n := strings.IndexByte(text[from:], ' ')
 	if n < 0 {
-		return "", "", false
+		return text, "", false
 	}
 	return text[:from+n], text[from+n+1:], true
 }
