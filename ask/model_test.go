@@ -46,10 +46,7 @@ func kindOf(word string) byte {
 		return 'v'
 	}
 	if numForm.MatchString(word) {
-		if _, err := strconv.ParseInt(word, 10, 64); err == nil {
-			return '5'
-		}
-		return '-'
+		return '5'
 	}
 	if _, err := term.Parse(word); err == nil {
 		return 't'
@@ -92,9 +89,18 @@ func made(words []string, kinds string) api.Query {
 		q.Order, q.Down = words[at[8]][1:], at[10] < at[11]
 	}
 	if at[12] >= 0 {
-		q.Limit, _ = strconv.Atoi(words[at[12]])
+		q.Limit = limitOf(words[at[12]])
 	}
 	return q
+}
+
+// limitOf is a number, or, of all that have more digits than the greatest limit, one that may not be either.
+func limitOf(word string) int {
+	if len(word) > len(strconv.Itoa(api.MaxAnswers)) {
+		return api.MaxAnswers + 1
+	}
+	n, _ := strconv.Atoi(word)
+	return n
 }
 
 // wantRead fails unless Parse says of a text what the chapter's words say of it.

@@ -217,7 +217,7 @@ func TestParseCutsWords(t *testing.T) {
 
 func TestParseLimits(t *testing.T) {
 	const head = "select ?x where ?x a b limit "
-	for _, word := range []string{"", "-1", "-0", "+0", "+5", "00", "05", "0500", "0x5", "5.", "5.0", "1e2", "5_0", "1_000", "five", "?x", `"5"`, "5\n", "\t5", "٥", "-5", "--5", "9223372036854775808", "18446744073709551616", "99999999999999999999", strings.Repeat("9", 1000), "-9223372036854775809"} {
+	for _, word := range []string{"", "-1", "-0", "+0", "+5", "00", "05", "0500", "0x5", "5.", "5.0", "1e2", "5_0", "1_000", "five", "?x", `"5"`, "5\n", "\t5", "٥", "-5", "--5", "-9223372036854775808", "-9223372036854775809"} {
 		wantWrong(t, wrong{head + word, 7, api.ErrSyntax})
 		wantWrong(t, wrong{"select ?x ?x where ?x a b order ?x limit " + word, 10, api.ErrSyntax})
 	}
@@ -236,6 +236,59 @@ func TestParseLimits(t *testing.T) {
 			if at != 0 {
 				t.Errorf("Parse(%q) told place %d", s, at)
 			}
+		}
+	}
+}
+
+// longNumbers are numbers that are written right, from the greatest int on, and such as would be small ones if an int went round.
+func longNumbers() []string {
+	nought := strings.Repeat("0", 300)
+	return []string{
+		"9223372036854775807", "9223372036854775808", "9223372036854775809",
+		"18446744073709551615", "18446744073709551616", "18446744073709551619",
+		"10000000000000000000", "99999999999999999999", "36893488147419103237",
+		"340282366920938463463374607431768211461",
+		"1" + nought, "5" + nought, strings.Repeat("9", 100), strings.Repeat("1234567890", 100),
+	}
+}
+
+// A number can stand there however long it is: Check tells what is wrong with it, or the word behind it is the first that cannot stand there.
+func TestParseLongLimits(t *testing.T) {
+	const head = "select ?x where ?x a b limit "
+	for _, word := range longNumbers() {
+		for _, w := range []wrong{
+			{head + word, 0, api.ErrRange},
+			{"select distinct ?x where ?x a b order ?x down limit " + word, 0, api.ErrRange},
+			// What Check names ahead of it is told.
+			{"select where ?x a b limit " + word, 0, api.ErrNone},
+			{"select ?y where ?x a b limit " + word, 0, api.ErrNone},
+			{"select ?x ?x where ?x a b limit " + word, 0, api.ErrClash},
+			{"select ?x where ?x a ?y order ?y limit " + word, 0, api.ErrNone},
+			{"select ?x where ?x a b" + strings.Repeat(" and ?x a b", api.MaxParts) + " limit " + word, 0, api.ErrFull},
+			{head + word + " ", 8, api.ErrSyntax},
+			{head + word + " 3", 8, api.ErrSyntax},
+			{head + word + " " + word, 8, api.ErrSyntax},
+			{head + word + " order ?x", 8, api.ErrSyntax},
+			// These are no such numbers.
+			{head + "0" + word, 7, api.ErrSyntax},
+			{head + "00" + word, 7, api.ErrSyntax},
+			{head + "-" + word, 7, api.ErrSyntax},
+			{head + "+" + word, 7, api.ErrSyntax},
+			{head + word + "x", 7, api.ErrSyntax},
+			{head + "x" + word, 7, api.ErrSyntax},
+			{head + word + ".", 7, api.ErrSyntax},
+			{head + word + "_0", 7, api.ErrSyntax},
+			{head + word + "e2", 7, api.ErrSyntax},
+			{head + word[:9] + "-" + word[9:], 7, api.ErrSyntax},
+			{head + word + "\xff", 7, api.ErrSyntax},
+			{head + strings.Repeat("0", len(word)), 7, api.ErrSyntax},
+			{head + "-" + word + " 3", 7, api.ErrSyntax},
+			// It can stand nowhere else.
+			{"select ?x where ?x a " + word, 5, api.ErrSyntax},
+			{"select ?x where ?x a b " + word, 6, api.ErrSyntax},
+			{"select ?x where ?x a b order " + word, 7, api.ErrSyntax},
+		} {
+			wantWrong(t, w)
 		}
 	}
 }
@@ -309,6 +362,7 @@ func examples() []string {
 		"select distinct ?x ?y where ?x a/b.c \"a b\\\"\\\\\"@en and _b7 ?y \"\" order ?y down limit 120",
 		"select ?a where ?a ?b ?c and ?d ?e ?f and ?g ?h a and ?a b c and ?a b c and ?a b \"limit 5\"",
 		"select ?x where order ?x limit order ?x limit 0",
+		"select ?x where ?x a b limit 9223372036854775807",
 	}
 }
 
@@ -362,7 +416,9 @@ func TestParseOfLongTexts(t *testing.T) {
 		{`select ?x where ?x a "` + again(`\" `), 5, api.ErrSyntax},
 		{`select ?x where ?x a "` + again(`\" `) + `"`, 5, api.ErrSyntax},
 		{"select ?x where ?x a b" + again(" "), 6, api.ErrSyntax},
-		{"select ?x where ?x a b limit " + again("9"), 7, api.ErrSyntax},
+		{"select ?x where ?x a b limit " + again("9"), 0, api.ErrRange},
+		{"select ?x where ?x a b limit " + again("9") + "x", 7, api.ErrSyntax},
+		{"select ?x where ?x a b limit " + again("0"), 7, api.ErrSyntax},
 	} {
 		wantWrong(t, w)
 	}
@@ -398,7 +454,7 @@ func FuzzParse(f *testing.F) {
 	for _, w := range writtens() {
 		f.Add(w.text)
 	}
-	for _, s := range append(examples(), "", " ", "select", "select where", "select ?x ?x where ?x a b", "select ?x where ?x a b limit 501", `select ?x where "a\" b`) {
+	for _, s := range append(examples(), "", " ", "select", "select where", "select ?x ?x where ?x a b", "select ?x where ?x a b limit 501", "select ?x where ?x a b limit 18446744073709551619", `select ?x where "a\" b`) {
 		f.Add(s)
 	}
 	f.Fuzz(func(t *testing.T, s string) { wantRead(t, begins{}, s) })

@@ -1,6 +1,7 @@
 package ask
 
 import (
+	"math"
 	"strconv"
 	"strings"
 
@@ -128,8 +129,23 @@ func readSlot(word string) (api.Slot, bool) {
 	return api.Slot{Term: t}, err == nil
 }
 
-// readNumber takes a number as it is written alone: without a sign, and without a 0 ahead that it does not need.
+// readNumber takes a number as it is written alone. One that is beyond all ints is a number, too: the greatest int stands for it, of which Check tells the same.
 func readNumber(word string) (int, bool) {
+	if !isNumber(word) {
+		return 0, false
+	}
 	n, err := strconv.Atoi(word)
-	return n, err == nil && n >= 0 && strconv.Itoa(n) == word
+	if err != nil {
+		return math.MaxInt, true
+	}
+	return n, true
+}
+
+// isNumber tells whether a word is digits alone, of any length, without a 0 ahead that it does not need.
+func isNumber(word string) bool {
+	noDigit := func(r rune) bool { return r < '0' || r > '9' }
+	if word == "" || strings.ContainsFunc(word, noDigit) {
+		return false
+	}
+	return word == "0" || word[0] != '0'
 }
