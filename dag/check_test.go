@@ -7,6 +7,8 @@ import (
 	"testing"
 
 	"strataweb/api"
+	"strataweb/dag"
+	"strataweb/plain"
 )
 
 func TestCheck(t *testing.T) {
@@ -169,4 +171,25 @@ func TestCheckFirstOfAll(t *testing.T) {
 	wantCheck(t, "Layer", []api.Commit{{}}, 0, api.ErrRange)
 	wantCheck(t, "Message", []api.Commit{saying("\x7f")}, 0, api.ErrSyntax)
 	wantCheck(t, "full", []api.Commit{saying(strings.Repeat("a", api.MaxText+1))}, 0, api.ErrFull)
+}
+
+// CheckOne tells of a commit with a number what Check tells of it behind so many others.
+func TestCheckOne(t *testing.T) {
+	for _, n := range []int{0, 1, 2, 3, 30, api.MaxCommits - 1} {
+		for _, p := range append(strange(n), 0, 1, n-1) {
+			for _, q := range []int{-1, 0, 1, n} {
+				for _, c := range []api.Commit{of(), of(p), of(p, q), of(p, q, 0), saying("\n"), {Parents: []int{p}}} {
+					_, want := dag.Check(append(line(n), c))
+					wantTold(t, c, dag.CheckOne(c, n), plain.Told(want))
+				}
+			}
+		}
+	}
+	// How many others there are does not matter to it.
+	wantTold(t, "beyond", dag.CheckOne(of(1000), 1001), api.OK)
+	for _, first := range faults() {
+		c := of(0)
+		first.make(&c)
+		wantTold(t, c, dag.CheckOne(c, 3), first.want)
+	}
 }

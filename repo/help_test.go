@@ -231,9 +231,17 @@ func (m *model) commit(branch string, other int, set []api.Triple, message strin
 
 // led makes a branch lead to a commit with these parents.
 func (m *model) led(branch string, parents []int, b string, c made) (int, api.Errno) {
+	at, told := m.taken(parents, b, c)
+	if told == api.OK {
+		m.point(branch, at)
+	}
+	return at, told
+}
+
+// taken is the number of a commit with these parents.
+func (m *model) taken(parents []int, b string, c made) (int, api.Errno) {
 	for i, x := range m.commits {
 		if slices.Equal(x.Parents, parents) && slices.Equal(x.graph, c.graph) && x.Message == c.Message {
-			m.point(branch, i)
 			return i, api.OK
 		}
 	}
@@ -247,7 +255,6 @@ func (m *model) led(branch string, parents []int, b string, c made) (int, api.Er
 	}
 	c.Parents, c.Layer = parents, id
 	m.commits = append(m.commits, c)
-	m.point(branch, len(m.commits)-1)
 	return len(m.commits) - 1, api.OK
 }
 
@@ -292,6 +299,20 @@ func (x both) join(t *testing.T, branch string, other int, set []api.Triple, mes
 	}
 	got, err := x.r.Join(branch, other, set, message)
 	wantNumber(t, "Join on "+strconv.Quote(branch), got, err, want, told)
+	return got
+}
+
+// add does so with both, and tells the number: the bytes are those of the Layer that makes of the first parent's graph the set.
+func (x both) add(t *testing.T, parents []int, set []api.Triple, message string) int {
+	t.Helper()
+	var start []api.Triple
+	if len(parents) > 0 {
+		start = x.m.commits[parents[0]].graph
+	}
+	b := change(start, set)
+	want, told := x.m.taken(parents, b, made{graph: set, Commit: api.Commit{Message: message}})
+	got, err := x.r.Add(parents, b, message)
+	wantNumber(t, "Add", got, err, want, told)
 	return got
 }
 

@@ -223,7 +223,7 @@ func step(t *testing.T, b both, x, y, z byte) {
 	message := []string{"m", "n", "", "\n"}[int(z)/32%4]
 	at := int(z)%(len(b.m.commits)+2) - 1
 	head, _ := b.m.at(name)
-	switch x % 10 {
+	switch x % 11 {
 	case 0, 1, 2, 3:
 		b.commit(t, name, set, message)
 	case 4, 5:
@@ -236,7 +236,20 @@ func step(t *testing.T, b both, x, y, z byte) {
 		b.move(t, name, int(x)/10-1, at)
 	case 9:
 		b.drop(t, name)
+	case 10:
+		b.add(t, someParents(int(x)/10, int(y), len(b.m.commits)), set, "m")
 	}
+}
+
+// someParents are none, one or two of so many commits, no two alike.
+func someParents(x, y, size int) []int {
+	switch {
+	case size == 0 || x%3 == 0:
+		return nil
+	case x%size == y%size || x%3 == 1:
+		return []int{x % size}
+	}
+	return []int{x % size, y % size}
 }
 
 // Many calls in any order, held against what should be there.

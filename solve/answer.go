@@ -37,26 +37,28 @@ func (a answer) fill(s api.Slot) api.Slot {
 	return s
 }
 
-// answersTo are all answers to a query, or what is wrong.
-func answersTo(set []api.Triple, q api.Query) ([]answer, error) {
+// answersTo are all answers to a query, and how many there are to its first part, the first two, and so on; or what is wrong.
+func answersTo(set []api.Triple, q api.Query) ([]answer, []int, error) {
 	if err := triple.Sorted(set); err != nil {
-		return nil, err
+		return nil, nil, err
 	}
 	if err := ask.Check(q); err != nil {
-		return nil, err
+		return nil, nil, err
 	}
 	all := []answer{{}}
+	var sizes []int
 	for _, p := range q.Parts {
 		own, err := answersToPart(set, p)
 		if err != nil {
-			return nil, err
+			return nil, nil, err
 		}
 		all = meet(all, own)
 		if len(all) > api.MaxAnswers {
-			return nil, api.ErrFull
+			return nil, nil, api.ErrFull
 		}
+		sizes = append(sizes, len(all))
 	}
-	return all, nil
+	return all, sizes, nil
 }
 
 // answersToPart are those to a part alone.

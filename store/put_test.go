@@ -221,3 +221,31 @@ func TestTwoStores(t *testing.T) {
 	wantPut(t, one, "c", 2)
 	wantHeld(t, store.New(), nil)
 }
+
+// A Clone has the same objects by the same numbers, gives the same number next, and knows nothing of what comes then.
+func TestClone(t *testing.T) {
+	s := filled(t, "a", "b", "c", "d")
+	wantKeep(t, s, []int{1, 3}, 2)
+	c := s.Clone()
+	wantHeld(t, c, held{{1, "a"}, {3, "c"}})
+	wantPut(t, c, "b", 5)
+	wantPut(t, c, "e", 6)
+	wantHeld(t, s, held{{1, "a"}, {3, "c"}})
+	wantPut(t, s, "f", 5)
+	wantKeep(t, c, []int{6}, 3)
+	wantHeld(t, s, held{{1, "a"}, {3, "c"}, {5, "f"}})
+	wantHeld(t, c, held{{6, "e"}})
+	wantHeld(t, store.New().Clone(), nil)
+	wantPut(t, store.New().Clone(), "a", 1)
+}
+
+// It has no more room than the one that it comes of.
+func TestCloneOfFull(t *testing.T) {
+	s := filled(t, long('a', api.MaxBytes-1))
+	c := s.Clone()
+	wantNoPut(t, c, "bb")
+	wantPut(t, c, "b", 2)
+	wantPut(t, s, "c", 2)
+	s = filled(t, span(0, api.MaxObjects)...)
+	wantNoPut(t, s.Clone(), "more")
+}
