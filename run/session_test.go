@@ -1,0 +1,46 @@
+package run_test
+
+import "testing"
+
+// A session that does each thing, from the beginning on.
+func TestSession(t *testing.T) {
+	wantSession(t,
+		step{"size", "0"},
+		step{"twin", "-"},
+		step{"add ann knows bob", "new"},
+		step{"add ann knows bob", "old"},
+		step{"add bob knows cid", "new"},
+		step{`add ann says "good day"@en`, "new"},
+		step{"commit main", "0"},
+		step{"push main", "0"},
+		step{"twin", "main=3"},
+		step{"ask select ?x ?y where ?x knows ?y", "ann bob;bob cid"},
+		step{"ask select ?w where ann says ?w", `"good day"@en`},
+		step{"ask select ?x where cid knows ?x", "-"},
+		step{"ask select ?x where", "ErrSyntax"},
+		step{"add cid knows ann", "new"},
+		step{"commit main", "1"},
+		step{"load main", "4"},
+		step{"take cid knows ann", "new"},
+		step{"take cid knows ann", "old"},
+		step{"add cid says \"\"", "new"},
+		step{"give main", "1"},
+		step{"push main", "ErrState"},
+		step{"pull main", "3"},
+		step{"load main", "5"},
+		step{"ask select ?x where ?x knows ?y order ?x down", "cid;bob;ann"},
+		step{"push main", "3"},
+		step{"twin", "main=5"},
+		step{`take ann says "good day"@en`, "new"},
+		step{`add ann says "good night"@en`, "new"},
+		step{"commit main", "4"},
+		step{`take ann says "good night"@en`, "new"},
+		step{"give main", "4"},
+		step{"pull main", "ErrSides"},
+		step{"load main", "5"},
+		step{"load side", "ErrNone"},
+		step{"ship main", "bad"},
+		step{"", "bad"},
+		step{"size", "5"},
+	)
+}
